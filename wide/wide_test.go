@@ -458,6 +458,32 @@ func TestGcdOfLeadingWords(t *testing.T) {
 	}
 }
 
+// P3.5: what the products of cofactors and words need in order to fit in 64 bits.
+func TestSizesOfCofactors(t *testing.T) {
+	check := func(x, y int) {
+		r := turnOf(x, y)
+		for _, n := range []int{r.a, r.b, r.c, r.d} {
+			if n = max(n, -n); n > 1 && n > x/n {
+				t.Fatalf("from %d and %d, the square of a cofactor of %v is greater than the first", x, y, r)
+			}
+		}
+		if min(r.a, r.b) > 0 || max(r.a, r.b) < 0 || min(r.c, r.d) > 0 || max(r.c, r.d) < 0 {
+			t.Fatalf("from %d and %d, %v has two cofactors of the same sign", x, y, r)
+		}
+	}
+	for x := range 600 {
+		for y := range x + 1 {
+			check(x, y)
+		}
+	}
+	source := rand.New(rand.NewSource(9))
+	for range 100000 {
+		x, y := source.Intn(1<<62), source.Intn(1<<62)
+		check(max(x, y), min(x, y))
+		check(max(x, y), min(x, y)>>source.Intn(62))
+	}
+}
+
 // P3.6.
 func TestSignAndNeg(t *testing.T) {
 	for _, b := range someBigs() {
